@@ -1,0 +1,1 @@
+"""Chainparts: numbers as chains of whole parts."""
