@@ -59,6 +59,9 @@ class RootChain:
         self.below = (self.square - self.top * self.top) // self.below
         return part
 
+    def what_is_left(self):
+        return (self.top, self.below)
+
 
 class RuledChain:
     def __init__(self, parts, ring, steps):

@@ -216,3 +216,79 @@ class SlowReading:
 
     def took(self):
         return self.spent
+
+
+def joined(parts):
+    (top, below), beside = convergents(parts)
+    return Fraction(top, below)
+
+
+def slow_parts(reading, spare):
+    """One part more, [] where there is none; None where it wants more than is left of spare."""
+    before = reading.took()
+    answer = reading.part(spare[0])
+    spare[0] -= reading.took() - before
+    if answer == ("none",):
+        raise Divided()
+    if answer == ("waits",):
+        return None
+    return list(answer[1:])
+
+
+def slow_order(one, other, most):
+    """Two readings compared by the fractions that their parts come to."""
+    spare = [most]
+    rows = [[], []]
+    while True:
+        ended = True
+        for row, reading in zip(rows, (one, other)):
+            more = slow_parts(reading, spare)
+            if more is None:
+                return "waits"
+            ended = ended and not more
+            row += more
+        if rows[0] != rows[1]:
+            return "less" if joined(rows[0]) < joined(rows[1]) else "more"
+        if ended:
+            return "same"
+
+
+def slow_compared(one, other, most):
+    return slow_order(SlowReading(one), SlowReading(other), most)
+
+
+class FreeReading:
+    """The parts of a fraction, which cost nothing."""
+
+    def __init__(self, value):
+        self.parts = chain_of(value)
+
+    def part(self, most):
+        return ("part", self.parts.pop(0)) if self.parts else ("end",)
+
+    def took(self):
+        return 0
+
+
+def beside(value, size):
+    """The fractions of the size on either side of a value, found by a walk through all."""
+    belows = range(1, size + 1)
+    return (max(Fraction(value * below // 1, below) for below in belows),
+            min(Fraction(-(-value * below // 1), below) for below in belows))
+
+
+def slow_nearest(tree, size, most):
+    reading, spare, parts = SlowReading(tree), [most], []
+    while not parts or joined(parts).denominator <= size:
+        more = slow_parts(reading, spare)
+        if more is None:
+            return None
+        if not more:
+            return joined(parts).as_integer_ratio()
+        parts += more
+    sides = beside(joined(parts), size)
+    order = slow_order(SlowReading(tree), FreeReading(sum(sides) / 2), most)
+    if order == "waits":
+        return None
+    chosen = {"less": sides[0], "more": sides[1], "same": min(sides, key=lambda side: (side.denominator, side))}
+    return chosen[order].as_integer_ratio()

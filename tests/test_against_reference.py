@@ -3,8 +3,10 @@
 import unittest
 
 from chainparts.errors import BadTree, NoValue
+from chainparts.near import nearest
+from chainparts.order import compared
 from chainparts.readers import reader
-from reference import SlowReading
+from reference import Divided, SlowReading, slow_compared, slow_nearest
 
 FAR = 10 ** 12
 LEAVES = [
@@ -62,6 +64,13 @@ def asked(reading, most):
         return ("none",)
 
 
+def answered(function, *arguments):
+    try:
+        return function(*arguments)
+    except (NoValue, Divided):
+        return "none"
+
+
 class AgainstReference(unittest.TestCase):
     def alike(self, tree, budgets, many=15):
         told, slow = reader(tree), SlowReading(tree)
@@ -98,6 +107,46 @@ class AgainstReference(unittest.TestCase):
         dice = Dice(8)
         for turn in range(900):
             self.alike(dice.tree(2 + turn % 4), BUDGETS[turn % 3])
+
+    def compared_alike(self, one, other, most):
+        told = answered(compared, one, other, most)
+        self.assertEqual(told, answered(slow_compared, one, other, most), (one, other, most))
+        return told
+
+    def test_each_two_leaves_compared(self):
+        for one in LEAVES:
+            for other in LEAVES:
+                for most in (0, 1, 2, 3, 4, 7, 40):
+                    self.compared_alike(one, other, most)
+
+    def test_trees_of_all_kinds_compared(self):
+        dice, answers = Dice(10), set()
+        for turn in range(700):
+            one = dice.tree(1 + turn % 4)
+            # Often the same number told otherwise, so that they are alike for long.
+            other = [dice.tree(1 + turn % 3), ("power", one, 1), ("four", (1, 0, 0, 1), one)][turn % 3]
+            if turn % 8 < 4:
+                one, other = other, one
+            for most in (3, 12, 60):
+                answers.add(self.compared_alike(one, other, most))
+        self.assertEqual(answers, {"less", "same", "more", "waits", "none"})
+
+    def nearest_alike(self, tree, size, most):
+        told = answered(nearest, tree, size, most)
+        self.assertEqual(told, answered(slow_nearest, tree, size, most), (tree, size, most))
+
+    def test_fractions_nearest_to_leaves(self):
+        for leaf in LEAVES:
+            for size in (1, 2, 3, 8, 30):
+                for most in range(12):
+                    self.nearest_alike(leaf, size, most)
+
+    def test_fractions_nearest_to_trees_of_all_kinds(self):
+        dice = Dice(11)
+        for turn in range(500):
+            tree = dice.tree(1 + turn % 4)
+            for most in (2, 5, 9, 60):
+                self.nearest_alike(tree, 1 + dice.below(20), most)
 
     def test_the_trees_are_no_bad_ones(self):
         dice = Dice(9)

@@ -2,6 +2,8 @@ import unittest
 from fractions import Fraction
 
 from chainparts.errors import NoValue
+from chainparts.near import nearest
+from chainparts.order import compared
 from chainparts.readers import first_parts, reader
 from reference import chain_of
 
@@ -43,6 +45,23 @@ class Told(unittest.TestCase):
             first_parts(tree, 1, cost)
         self.assertEqual(first_parts(tree, 1, cost - 1), ([], "waits"))
         self.assertEqual(first_parts(tree, 0, cost), ([], "parts"))
+        self.divides_in_order_and_nearness(tree, cost)
+
+    def divides_in_order_and_nearness(self, tree, cost):
+        for most in (cost, cost + 9):
+            with self.assertRaises(NoValue, msg=repr(tree)):
+                compared(tree, PI, most)
+            with self.assertRaises(NoValue, msg=repr(tree)):
+                compared(tree, tree, most)
+            # One part goes to the other number, which is asked ahead of it.
+            with self.assertRaises(NoValue, msg=repr(tree)):
+                compared(PI, tree, most + 1)
+            with self.assertRaises(NoValue, msg=repr(tree)):
+                nearest(tree, 5, most)
+        self.assertEqual(compared(tree, PI, cost - 1), "waits")
+        self.assertEqual(compared(tree, tree, cost - 1), "waits")
+        self.assertEqual(compared(PI, tree, cost), "waits")
+        self.assertIsNone(nearest(tree, 5, cost - 1))
 
 
 class Fours(Told):
@@ -212,6 +231,9 @@ class Eights(Told):
         never = ("eight", TIMES, ROOT2, ROOT2)
         self.tells(("eight", SUM, never, BROKEN), [(50, "waits", 50), (50, "waits", 100)])
         self.tells(("eight", SUM, ROOT2, BROKEN), [(0, "waits", 0), (1, "waits", 1), (0, "waits", 1)])
+        self.assertEqual(compared(never, BROKEN, 100), "waits")
+        self.assertEqual(compared(("eight", SUM, never, BROKEN), BROKEN, 100), "waits")
+        self.assertIsNone(nearest(("eight", SUM, never, BROKEN), 5, 100))
 
 
 class Powers(Told):

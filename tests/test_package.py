@@ -5,7 +5,7 @@ import re
 import unittest
 from pathlib import Path
 
-from chainparts import errors, numbers, readers
+from chainparts import errors, near, numbers, order, readers, rings
 
 FOLDER = Path(errors.__file__).parent
 FILES = sorted(FOLDER.glob("*.py"))
@@ -33,7 +33,10 @@ class Interface(unittest.TestCase):
 
     def test_functions_stand_where_they_are_listed(self):
         listed = {"numbers.py": {"root_below": ["number"], "put_together": ["parts"]},
-                  "readers.py": {"reader": ["tree"], "first_parts": ["tree", "many", "most"]}}
+                  "readers.py": {"reader": ["tree"], "first_parts": ["tree", "many", "most"]},
+                  "rings.py": {"ring_of": ["top", "square", "below", "most"]},
+                  "order.py": {"compared": ["one", "other", "most"]},
+                  "near.py": {"nearest": ["tree", "size", "most"]}}
         for name, functions in listed.items():
             found = defined(name)
             for function, arguments in functions.items():
@@ -53,6 +56,9 @@ class Interface(unittest.TestCase):
         self.assertEqual(numbers.put_together(parts=[0, 3]), (1, 3))
         self.assertEqual(readers.first_parts(tree=("fraction", 3, 1), many=1, most=1), ([3], "parts"))
         self.assertEqual(readers.reader(("fraction", 3, 1)).part(most=1), ("part", 3))
+        self.assertEqual(rings.ring_of(top=0, square=2, below=1, most=2), ([1], [2]))
+        self.assertEqual(order.compared(one=("fraction", 3, 1), other=("root", 0, 2, 1), most=2), "more")
+        self.assertEqual(near.nearest(tree=("fraction", 3, 2), size=1, most=2), (1, 1))
 
 
 class Writing(unittest.TestCase):

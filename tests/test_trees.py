@@ -1,6 +1,8 @@
 import unittest
 
 from chainparts.errors import BadTree
+from chainparts.near import nearest
+from chainparts.order import compared
 from chainparts.readers import first_parts, reader
 
 FAR = 10 ** 12
@@ -9,6 +11,7 @@ ROOT = ("root", 0, 2, 1)
 RULED = ("ruled", (1,), (2,), (0,))
 SAME = (1, 0, 0, 1)
 TIMES = (1, 0, 0, 0, 0, 0, 0, 1)
+BROKEN = ("four", (0, 1, 1, 0), ("fraction", 0, 1))
 
 
 def nested(times, word, leaf=HALF):
@@ -97,6 +100,12 @@ class Trees(unittest.TestCase):
         for many, most in ((0, 0), (1, 0), (3, 10)):
             with self.assertRaises(BadTree, msg=name):
                 first_parts(tree, many, most)
+        for most in (0, 10):
+            for one, other in ((tree, HALF), (ROOT, tree), (BROKEN, tree), (tree, BROKEN)):
+                with self.assertRaises(BadTree, msg=name):
+                    compared(one, other, most)
+            with self.assertRaises(BadTree, msg=name):
+                nearest(tree, 3, most)
 
     def test_refused_at_the_top(self):
         for tree in BAD:
@@ -111,6 +120,11 @@ class Trees(unittest.TestCase):
         for tree in GOOD:
             reader(tree)
             self.assertEqual(first_parts(tree, 0, 0), ([], "parts"))
+            self.assertEqual(compared(tree, HALF, 0), "waits")
+            self.assertEqual(compared(HALF, tree, 0), "waits")
+            self.assertIsNone(nearest(tree, 3, 0))
+            self.assertIn(compared(tree, tree, 50), ("same", "waits"))
+            nearest(tree, 3, 50)
 
     def test_each_crossing_of_an_eight_is_enough(self):
         for one in range(4):
